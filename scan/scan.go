@@ -49,6 +49,9 @@ func (w *Walk) Done() bool { return w.at == len(w.text) }
 // At tells how many bytes lie behind the walk.
 func (w *Walk) At() int { return w.at }
 
+// Left tells the bytes that lie ahead, for one who must look further than the next.
+func (w *Walk) Left() string { return w.text[w.at:] }
+
 // Next byte, whichever it is.
 func (w *Walk) Next() byte {
 	if w.Done() {

@@ -74,6 +74,9 @@ func TestWhatStepsAnswer(t *testing.T) {
 	if c := w.Want(func(c byte) bool { return c == '1' }); c != '1' {
 		t.Errorf("want: %q", c)
 	}
+	if s := w.Left(); s != "bcd;e" || w.At() != 2 {
+		t.Errorf("left: %q at %d", s, w.At())
+	}
 	if s := w.Take(2); s != "bc" {
 		t.Errorf("take: %q", s)
 	}
@@ -81,7 +84,7 @@ func TestWhatStepsAnswer(t *testing.T) {
 		t.Errorf("till: %q", s)
 	}
 	w.Must(';', 'e')
-	if !w.Done() {
+	if !w.Done() || w.Left() != "" {
 		t.Error("bytes are left")
 	}
 }
