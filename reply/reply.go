@@ -6,6 +6,7 @@ import (
 	"strings"
 
 	"springhouse/api"
+	"springhouse/digits"
 	"springhouse/scan"
 )
 
@@ -190,11 +191,10 @@ func line(w *scan.Walk) string {
 	return s
 }
 
-// number answers the number that a line is. One that would be written otherwise is none: so no noughts ahead, no sign too many.
+// number answers the number that a line is.
 func number(w *scan.Walk) int {
-	s := line(w)
-	n, err := strconv.Atoi(s)
-	if err != nil || strconv.Itoa(n) != s || n < -api.MaxInt || n > api.MaxInt {
+	n, ok := digits.Number(line(w))
+	if !ok {
 		scan.GiveUp(api.ErrForm)
 	}
 	return n

@@ -1,0 +1,87 @@
+package common
+
+import (
+	"math"
+	"testing"
+
+	"springhouse/api"
+)
+
+func TestE1Nothing(t *testing.T) {
+	for _, x := range []api.Item{{}, {List: []string{}, Pairs: []api.Pair{}, Scores: []api.Score{}}} {
+		for kind := api.ItemText; kind <= api.ItemScore; kind++ {
+			if e := Check(x, kind); e != api.OK {
+				t.Errorf("kind %d: %d", kind, e)
+			}
+		}
+	}
+	for _, x := range []api.Item{{Text: "x"}, {List: []string{""}}, {Pairs: []api.Pair{{}}}, {Scores: []api.Score{{}}}} {
+		for kind := api.ItemText; kind <= api.ItemScore; kind++ {
+			if e := Check(x, kind); e != api.ErrKind {
+				t.Errorf("kind %d, something without a kind: %d", kind, e)
+			}
+		}
+	}
+}
+
+func TestE1Kinds(t *testing.T) {
+	for _, x := range []api.Item{
+		{Kind: api.ItemText},
+		{Kind: api.ItemList, List: []string{"a"}},
+		{Kind: api.ItemSet, List: []string{"a"}},
+		{Kind: api.ItemHash, Pairs: []api.Pair{{}}},
+		{Kind: api.ItemScore, Scores: []api.Score{{}}},
+	} {
+		for kind := api.ItemText; kind <= api.ItemScore; kind++ {
+			want := api.ErrKind
+			if kind == x.Kind {
+				want = api.OK
+			}
+			if e := Check(x, kind); e != want {
+				t.Errorf("kind %d for %d: %d, must be %d", x.Kind, kind, e, want)
+			}
+			x := x
+			x.Text = "something that is too much, and more bytes than a text may have"
+			want = api.ErrForm
+			if x.Kind == api.ItemText {
+				want = api.ErrMany
+			}
+			if e := Check(x, kind); e != want {
+				t.Errorf("a wrong one of kind %d for %d: %d, must be %d", x.Kind, kind, e, want)
+			}
+		}
+	}
+}
+
+// TestE2Places: each place is asked by itself, as the document says it.
+func TestE2Places(t *testing.T) {
+	for n := range 6 {
+		for from := -9; from <= 9; from++ {
+			for to := -9; to <= 9; to++ {
+				first, behind := Places(n, from, to)
+				if first < 0 || first > behind || behind > n {
+					t.Fatalf("%d of them, %d to %d: %d to %d", n, from, to, first, behind)
+				}
+				for i := range n {
+					notAhead := from < 0 && i-n >= from || from >= 0 && i >= from
+					notBehind := to < 0 && i-n <= to || to >= 0 && i <= to
+					if (notAhead && notBehind) != (first <= i && i < behind) {
+						t.Errorf("%d of them, %d to %d: %d to %d", n, from, to, first, behind)
+					}
+				}
+			}
+		}
+	}
+}
+
+func TestE2PlacesFarOff(t *testing.T) {
+	const far, near = math.MaxInt, math.MinInt
+	for _, c := range [][5]int{
+		{4, near, far, 0, 4}, {4, near, -1, 0, 4}, {4, near, 0, 0, 1}, {4, near, -4, 0, 1}, {4, 3, far, 3, 4}, {4, -1, far, 3, 4},
+		{4, far, near, 0, 0}, {4, far, far, 0, 0}, {4, near, near, 0, 0}, {4, 4, far, 0, 0}, {4, near, -5, 0, 0}, {0, near, far, 0, 0}, {0, 0, 0, 0, 0}, {0, 0, -1, 0, 0},
+	} {
+		if first, behind := Places(c[0], c[1], c[2]); first != c[3] || behind != c[4] {
+			t.Errorf("%v: %d to %d", c, first, behind)
+		}
+	}
+}
