@@ -25,6 +25,9 @@ func isNothing(x api.Item) bool {
 	return x.Kind == 0 && x.Text == "" && len(x.List) == 0 && len(x.Pairs) == 0 && len(x.Scores) == 0
 }
 
+// IsLong: has a text more bytes than an element, a member, a field or a value may have?
+func IsLong(s string) bool { return len(s) > api.MaxBytes }
+
 // Places of a range in a sequence of n: the first one, and the one behind the last; the same one twice, if there are none.
 func Places(n, from, to int) (first, behind int) {
 	first = max(fromEnd(n, from), 0)

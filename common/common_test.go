@@ -85,3 +85,11 @@ func TestE2PlacesFarOff(t *testing.T) {
 		}
 	}
 }
+
+func TestD1IsLong(t *testing.T) {
+	for n, want := range map[int]bool{0: false, 1: false, 59: false, 60: false, 61: true, 100000: true} {
+		if got := IsLong(string(make([]byte, n))); got != want {
+			t.Errorf("%d bytes: %v", n, got)
+		}
+	}
+}
