@@ -2,27 +2,42 @@
 package common
 
 import (
+	"slices"
+
 	"springhouse/api"
 	"springhouse/item"
 )
 
-// Check an item that must be nothing, or of a kind.
-func Check(x api.Item, kind int) api.Errno {
-	if isNothing(x) {
+// Right: what is wrong with an item; nothing is right.
+func Right(x api.Item) api.Errno {
+	if IsNothing(x) {
 		return api.OK
 	}
-	if e := item.Check(x); e != api.OK {
+	return item.Check(x)
+}
+
+// Check an item that must be nothing, or of a kind.
+func Check(x api.Item, kind int) api.Errno {
+	if e := Right(x); e != api.OK {
 		return e
 	}
-	if x.Kind != kind {
+	if !IsNothing(x) && x.Kind != kind {
 		return api.ErrKind
 	}
 	return api.OK
 }
 
-// isNothing: is that what a key has that is not there?
-func isNothing(x api.Item) bool {
+// IsNothing: is that what a key has that is not there?
+func IsNothing(x api.Item) bool {
 	return x.Kind == 0 && x.Text == "" && len(x.List) == 0 && len(x.Pairs) == 0 && len(x.Scores) == 0
+}
+
+// Copy of an item: its lists are new memory.
+func Copy(x api.Item) api.Item {
+	x.List = slices.Clone(x.List)
+	x.Pairs = slices.Clone(x.Pairs)
+	x.Scores = slices.Clone(x.Scores)
+	return x
 }
 
 // IsLong: has a text more bytes than an element, a member, a field or a value may have?

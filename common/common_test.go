@@ -2,6 +2,7 @@ package common
 
 import (
 	"math"
+	"reflect"
 	"testing"
 
 	"springhouse/api"
@@ -50,6 +51,45 @@ func TestE1Kinds(t *testing.T) {
 				t.Errorf("a wrong one of kind %d for %d: %d, must be %d", x.Kind, kind, e, want)
 			}
 		}
+	}
+}
+
+func TestE1Right(t *testing.T) {
+	for _, c := range []struct {
+		x    api.Item
+		want api.Errno
+	}{
+		{api.Item{}, api.OK},
+		{api.Item{List: []string{}, Pairs: []api.Pair{}, Scores: []api.Score{}}, api.OK},
+		{api.Item{Kind: api.ItemText}, api.OK},
+		{api.Item{Kind: api.ItemList, List: []string{"b", "a"}}, api.OK},
+		{api.Item{Kind: api.ItemScore, Scores: []api.Score{{}}}, api.OK},
+		{api.Item{Text: "x"}, api.ErrKind},
+		{api.Item{Kind: 6}, api.ErrKind},
+		{api.Item{Kind: api.ItemList}, api.ErrNone},
+		{api.Item{Kind: api.ItemSet, List: []string{"b", "a"}}, api.ErrState},
+	} {
+		if e := Right(c.x); e != c.want {
+			t.Errorf("%v: %d, must be %d", c.x, e, c.want)
+		}
+	}
+}
+
+func TestP2CopyIsNewMemory(t *testing.T) {
+	of := func() api.Item {
+		return api.Item{Kind: 9, Text: "t", List: []string{"a", "b"}, Pairs: []api.Pair{{Field: "f", Value: "v"}}, Scores: []api.Score{{N: 1, Member: "m"}}}
+	}
+	x := of()
+	y := Copy(x)
+	if !reflect.DeepEqual(y, of()) {
+		t.Errorf("%v", y)
+	}
+	y.List[1], y.Pairs[0].Value, y.Scores[0].N = "!", "!", 7
+	if !reflect.DeepEqual(x, of()) {
+		t.Errorf("%v", x)
+	}
+	if !IsNothing(Copy(api.Item{})) || !IsNothing(Copy(api.Item{List: []string{}})) {
+		t.Error("nothing is something")
 	}
 }
 
