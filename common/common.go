@@ -43,6 +43,9 @@ func Copy(x api.Item) api.Item {
 // IsLong: has a text more bytes than an element, a member, a field or a value may have?
 func IsLong(s string) bool { return len(s) > api.MaxBytes }
 
+// IsTime: may a number be a time?
+func IsTime(n int) bool { return 0 <= n && n <= api.MaxTime }
+
 // Places of a range in a sequence of n: the first one, and the one behind the last; the same one twice, if there are none.
 func Places(n, from, to int) (first, behind int) {
 	first = max(fromEnd(n, from), 0)

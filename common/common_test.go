@@ -133,3 +133,11 @@ func TestD1IsLong(t *testing.T) {
 		}
 	}
 }
+
+func TestJ1IsTime(t *testing.T) {
+	for n, want := range map[int]bool{math.MinInt: false, -1: false, 0: true, 1: true, 999999: true, 1000000: true, 1000001: false, math.MaxInt: false} {
+		if got := IsTime(n); got != want {
+			t.Errorf("%d: %v", n, got)
+		}
+	}
+}
