@@ -16,23 +16,11 @@ func within(s api.Store, do func(k *keeper) api.Errno) (api.Store, api.Errno) {
 	if e := Check(s); e != api.OK {
 		return api.Store{}, e
 	}
-	k := keeper{copied(s)}
+	k := keeper{common.CopyStore(s)}
 	if e := do(&k); e != api.OK {
 		return api.Store{}, e
 	}
 	return k.Store, api.OK
-}
-
-// copied: a store as new memory.
-func copied(s api.Store) api.Store {
-	y := api.Store{Slots: slices.Clone(s.Slots), Segments: slices.Clone(s.Segments)}
-	for i := range y.Slots {
-		y.Slots[i].Item = common.Copy(y.Slots[i].Item)
-	}
-	for i := range y.Segments {
-		y.Segments[i] = slices.Clone(y.Segments[i])
-	}
-	return y
 }
 
 // view: the space that the store is.

@@ -40,6 +40,18 @@ func Copy(x api.Item) api.Item {
 	return x
 }
 
+// CopyStore: a store as new memory.
+func CopyStore(s api.Store) api.Store {
+	y := api.Store{Slots: slices.Clone(s.Slots), Segments: slices.Clone(s.Segments)}
+	for i := range y.Slots {
+		y.Slots[i].Item = Copy(y.Slots[i].Item)
+	}
+	for i := range y.Segments {
+		y.Segments[i] = slices.Clone(y.Segments[i])
+	}
+	return y
+}
+
 // IsLong: has a text more bytes than an element, a member, a field or a value may have?
 func IsLong(s string) bool { return len(s) > api.MaxBytes }
 

@@ -93,6 +93,33 @@ func TestP2CopyIsNewMemory(t *testing.T) {
 	}
 }
 
+func TestP2CopyStoreIsNewMemory(t *testing.T) {
+	store := func() api.Store {
+		return api.Store{
+			Slots: []api.Slot{
+				{Key: "a", Item: api.Item{Kind: api.ItemList, List: []string{"x"}}, Until: 5},
+				{Key: "b", Item: api.Item{Kind: api.ItemHash, Pairs: []api.Pair{{Field: "f"}}}},
+				{Key: "c", Item: api.Item{Kind: api.ItemScore, Scores: []api.Score{{N: 1, Member: "m"}}}},
+				{Key: "d", Cold: true, Place: api.Place{Segment: 1}},
+			},
+			Segments: [][]string{{"\x01x", "\x01y"}, {"\x01z"}},
+		}
+	}
+	s := store()
+	y := CopyStore(s)
+	if !reflect.DeepEqual(y, s) {
+		t.Fatalf("%v, must be %v", y, s)
+	}
+	y.Slots[0].Item.List[0], y.Slots[1].Item.Pairs[0].Field, y.Slots[2].Item.Scores[0].Member = "spoilt", "spoilt", "spoilt"
+	y.Slots[3].Key, y.Segments[0][1], y.Segments[1] = "spoilt", "spoilt", nil
+	if !reflect.DeepEqual(s, store()) {
+		t.Errorf("it shares memory: %v", s)
+	}
+	if y := CopyStore(api.Store{}); len(y.Slots)+len(y.Segments) != 0 {
+		t.Errorf("of none: %v", y)
+	}
+}
+
 // TestE2Places: each place is asked by itself, as the document says it.
 func TestE2Places(t *testing.T) {
 	for n := range 6 {
